@@ -11,16 +11,10 @@ import (
 	"cedilla/fault"
 	"cedilla/model"
 	"cedilla/rows"
+	"cedilla/samples"
 )
 
-// to is a row of class 0.
-func to(code rune, mapping ...rune) rows.Row {
-	return rows.Row{Code: code, Map: mapping}
-}
-
-func mark(code rune, class int, mapping ...rune) rows.Row {
-	return rows.Row{Code: code, Class: class, Map: mapping}
-}
+var to, mark = samples.To, samples.Mark
 
 func table(l ...rows.Row) model.Table {
 	return model.Table{Rows: l}
@@ -149,27 +143,7 @@ func TestOrder(t *testing.T) {
 	checkNote(t, table(to('A', 'A'), to('B', 'x', 'y'), to('c', 'x', 'y')), "full")
 }
 
-// chain is rows from 20000 on, each mapped to the one behind it, and the last
-// one to these.
-func chain(count int, last ...rune) []rows.Row {
-	const from = 0x20000
-	var l []rows.Row
-	for i := range count - 1 {
-		l = append(l, to(from+rune(i), from+rune(i)+1))
-	}
-	return append(l, to(from+rune(count)-1, last...))
-}
-
-// doubled are rows each of which is mapped to the one ahead, twice; so the
-// n-th, from 1 on, comes to 2 to the n.
-func doubled(count int) []rows.Row {
-	var l []rows.Row
-	for i := range count {
-		below := 0x30000 + rune(i)
-		l = append(l, to(below+1, below, below))
-	}
-	return l
-}
+var chain, doubled = samples.Chain, samples.Doubled
 
 // longer are rows each of which comes to one character more than the one
 // ahead, the first one to two.

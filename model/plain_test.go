@@ -7,6 +7,7 @@ import (
 	"cedilla/cpset"
 	"cedilla/model"
 	"cedilla/rows"
+	"cedilla/samples"
 )
 
 func between(c, from, to rune) bool {
@@ -135,45 +136,13 @@ func checkPlain(t *testing.T, tb model.Table, asked ...rune) bool {
 	return note == ""
 }
 
-// someRows are all rows of this code whose mappings have these targets.
-func someRows(code rune, targets ...rune) []rows.Row {
-	maps := [][]rune{nil}
-	for _, a := range targets {
-		maps = append(maps, []rune{a})
-		for _, b := range targets {
-			maps = append(maps, []rune{a, b})
-		}
-	}
-	var l []rows.Row
-	for _, m := range maps {
-		l = append(l, rows.Row{Code: code, Map: m}, rows.Row{Code: code, Class: 9, Map: m})
-	}
-	return l
-}
-
-// TestSmallTables: all tables of two and of three rows that rise, of which
-// each is mapped to any of these, and to one that has no row.
+// TestSmallTables: all small tables, right and wrong.
 func TestSmallTables(t *testing.T) {
 	asked := []rune{'a', 'b', 'c', 'd', 0xAC01}
-	excls := []cpset.Set{{}, cpset.Chars('a'), cpset.Chars('c', 'd'), cpset.All()}
 	right := 0
-	check := func(excl cpset.Set, l ...rows.Row) {
-		if checkPlain(t, model.Table{Rows: l, Excl: excl}, asked...) {
+	for tb := range samples.Small() {
+		if checkPlain(t, tb, asked...) {
 			right++
-		}
-	}
-	for _, a := range someRows('a', 'a', 'b', 'd') {
-		for _, b := range someRows('b', 'a', 'b', 'd') {
-			for _, excl := range excls {
-				check(excl, a, b)
-			}
-		}
-	}
-	for i, a := range someRows('a', 'b', 'c', 'd') {
-		for j, b := range someRows('b', 'a', 'c', 'd') {
-			for k, c := range someRows('c', 'b', 'd') {
-				check(excls[(i+j+k)%len(excls)], a, b, c)
-			}
 		}
 	}
 	if right < 3000 {
@@ -211,29 +180,6 @@ func TestShortTables(t *testing.T) {
 	}
 }
 
-// tableOf makes a table of any bytes, most often with rows that rise.
-func tableOf(data []byte) model.Table {
-	var tb model.Table
-	code := rune(0)
-	for len(data) >= 4 {
-		step, class, mapping := rune(data[0]), int(data[1])%3, data[2:4]
-		data = data[4:]
-		code += step % 3
-		r := rows.Row{Code: 'a' + code, Class: class}
-		for _, b := range mapping[:step>>2%3] {
-			r.Map = append(r.Map, 'a'+rune(b)%40)
-		}
-		if step == 255 {
-			r.Class, r.Map = int(mapping[0])*2-1, []rune{rune(mapping[1]) << 8}
-		}
-		if step&0x40 != 0 {
-			tb.Excl = tb.Excl.Or(cpset.Chars(r.Code))
-		}
-		tb.Rows = append(tb.Rows, r)
-	}
-	return tb
-}
-
 func FuzzCheck(f *testing.F) {
 	f.Add([]byte{})
 	f.Add([]byte{1, 0, 2, 3, 9, 0, 0, 7, 9, 1, 1, 2, 255, 0, 255, 255})
@@ -243,6 +189,6 @@ func FuzzCheck(f *testing.F) {
 		for c := rune('a' - 1); c < 'a'+50; c++ {
 			asked = append(asked, c)
 		}
-		checkPlain(t, tableOf(data[:min(len(data), 400)]), asked...)
+		checkPlain(t, samples.OfBytes(data[:min(len(data), 400)]), asked...)
 	})
 }
