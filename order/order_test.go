@@ -127,20 +127,9 @@ func TestShort(t *testing.T) {
 		{0x61, 0x1E69, 0x300, 0x301, 0x323, 0x338},
 		{0x61, 0x327, 0x328, 0x345, 0xF73},
 	} {
-		for length := range 7 {
-			each(chars, length, nil, func(l []rune) { check(t, d, l) })
+		for l := range samples.Short(6, chars...) {
+			check(t, d, l)
 		}
-	}
-}
-
-// each goes through all rows of so many of chars, each behind ahead.
-func each(chars []rune, length int, ahead []rune, see func(l []rune)) {
-	if length == 0 {
-		see(ahead)
-		return
-	}
-	for _, c := range chars {
-		each(chars, length-1, append(ahead[:len(ahead):len(ahead)], c), see)
 	}
 }
 

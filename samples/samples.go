@@ -9,6 +9,7 @@ import (
 	"cedilla/cpset"
 	"cedilla/model"
 	"cedilla/rows"
+	"cedilla/ucd"
 )
 
 // To is a row of class 0.
@@ -36,6 +37,12 @@ func Table() model.Table {
 		},
 		Excl: cpset.Chars(0x41, 0x958, 0xAC00, 0xAC01, 0x1D15E),
 	}
+}
+
+// Of is a table, loaded; nil if it may not be.
+func Of(t model.Table) *ucd.Data {
+	d, _ := ucd.Of(t)
+	return d
 }
 
 // Chain is rows from 20000 on, each mapped to the one behind it, and the last
@@ -125,4 +132,23 @@ func OfBytes(data []byte) model.Table {
 		t.Rows = append(t.Rows, r)
 	}
 	return t
+}
+
+// Short goes through all rows of at most so many of these characters. Each is
+// a list of its own.
+func Short(most int, chars ...rune) iter.Seq[[]rune] {
+	return func(yield func([]rune) bool) {
+		all := [][]rune{nil}
+		for at := 0; at < len(all); at++ {
+			l := all[at]
+			for _, c := range chars {
+				if len(l) < most {
+					all = append(all, append(slices.Clone(l), c))
+				}
+			}
+			if !yield(l) {
+				return
+			}
+		}
+	}
 }
